@@ -6,7 +6,7 @@ import (
 	"testing"
 )
 
-// P3.4: of the same Score the lesser number comes first. The order itself is asked here, since no hash is known at which two servers have one Score.
+// P3.4: of the same Score the lesser number comes first. The order itself is asked here, since no hash brings two servers to one Score: what tells their slots apart is too little to lead to one mark.
 func TestOrderOfTheSameScore(t *testing.T) {
 	for _, score := range []uint64{0, 1, 1 << 63, math.MaxUint64} {
 		all := []rated{{7, score}, {2, score}, {65535, score}, {0, score}, {3, score}}
